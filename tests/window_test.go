@@ -102,6 +102,12 @@ func TestWindowsByHand(t *testing.T) {
 	look(takes(t, "full", w, 9), 9, 9, 8, 7, 6, 5, 4, 3, 2)
 	look(takes(t, "full, and one left", w, 15), 15, 15, 8)
 	look(takes(t, "full, and none left", w, 16), 16, 16)
+	w = winOf("mCA1;", 20)
+	for n := 19; n > 12; n-- {
+		w = takes(t, "falling", w, n)
+	}
+	look(w, 20, 20, 19, 18, 17, 16, 15, 14, 13)
+	leaves(t, "falling too far", w, 12)
 	w = winOf("mCA1;", impl.FraMost)
 	leaves(t, "too far behind the last one", w, impl.FraMost-8)
 	look(takes(t, "behind the last one", w, impl.FraMost-7), 999, 999, 992)
