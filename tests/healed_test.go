@@ -339,4 +339,10 @@ func TestWhatIsStolenAgainTellsOfWhatWasHealed(t *testing.T) {
 	// Without the first theft it does not.
 	p.w.Stolen, p.w.Spy = p.w.Stolen[1:], p.w.Spy[5:]
 	knownAt(t, "stolen once", p, []string{at + "B3;A5;"}, []string{at, at + "B3;"})
+	// So it is of who is let go, and in at once, by one beside: what it is told then it keeps till one beside goes on again.
+	p = grownPast(t, isStolenOf(1), goesOn(0, 1, 1), hearsAt(1, 2), joinsAt(1, 2), hearsAt(2, 2), goesOn(2, -1, -1), hearsAt(1, 3), isStolenOf(1))
+	knownAt(t, "let in at once", p, []string{at, at + "A5;C3;"}, nil)
+	if !impl.SpyHas(p.w, p.groups[at+"A5;"]) || impl.SpyMay(p.w, at+"A5;") || !stolenAgain(p.w, at+"A5;") {
+		t.Fatal("between both")
+	}
 }
